@@ -3,7 +3,7 @@ package stack
 // PopTo takes off all up to and with the first element of a name, from the top on; none, if there is no such one.
 func (s *Stack) PopTo(name string) bool {
 	for i := s.Len() - 1; i >= 0; i-- {
-		if x, _ := s.look(s.At(i)); isNamed(x, name) {
+		if x, _ := s.look(s.At(i)); isNamed(x.called, name) {
 			s.open.cut(i)
 			return true
 		}
@@ -24,14 +24,14 @@ func (s *Stack) Thorough() int {
 // Special tells whether an element is special, be it in the stack or not.
 func (s *Stack) Special(id int) bool {
 	x, ok := s.look(id)
-	return ok && isSpecial(x)
+	return ok && isSpecial(x.called)
 }
 
 // leave takes off the top as long as it goes: how many went.
 func (s *Stack) leave(goes func(x called) bool) int {
 	n := 0
 	for s.Len() > 0 {
-		if x, _ := s.look(s.Top()); !goes(x) {
+		if x, _ := s.look(s.Top()); !goes(x.called) {
 			break
 		}
 		s.Pop()

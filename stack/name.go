@@ -12,9 +12,24 @@ type called struct {
 	name  string
 }
 
+// known is what is kept of an element: what it is called, and of which kinds of scopes it is a border.
+type known struct {
+	called
+	border [kinds]bool
+	there  bool
+}
+
+func newKnown(x called) known {
+	k := known{called: x, there: true}
+	for kind := range kinds {
+		k.border[kind] = isBorder(x, kind)
+	}
+	return k
+}
+
 // isNamed tells whether an element is one of HTML of that name.
 func isNamed(x called, name string) bool {
-	return isAmong(x, api.HTML, name)
+	return x.space == api.HTML && x.name == name
 }
 
 // isAmong tells whether an element is one of a namespace and has one of the names.

@@ -7,22 +7,23 @@ const (
 	buttonScope = 2
 	tableScope  = 3
 	selectScope = 4
+	kinds       = 5
 )
 
 // Scope tells whether an element of a name is in a scope.
 func (s *Stack) Scope(name string, kind int) bool {
-	return s.reaches(kind, func(_ int, x called) bool { return isNamed(x, name) })
+	return s.reaches(kind, func(_ int, x known) bool { return isNamed(x.called, name) })
 }
 
 // NodeScope tells whether an element is in a scope.
 func (s *Stack) NodeScope(id int, kind int) bool {
-	return s.reaches(kind, func(at int, _ called) bool { return at == id })
+	return s.reaches(kind, func(at int, _ known) bool { return at == id })
 }
 
 // reaches tells whether, from the top on, what is wanted comes ahead of every border. An element that is both is
 // reached.
-func (s *Stack) reaches(kind int, wanted func(id int, x called) bool) bool {
-	if kind < theScope || kind > selectScope {
+func (s *Stack) reaches(kind int, wanted func(id int, x known) bool) bool {
+	if kind < 0 || kind >= kinds {
 		return false
 	}
 	for i := s.Len() - 1; i >= 0; i-- {
@@ -31,7 +32,7 @@ func (s *Stack) reaches(kind int, wanted func(id int, x called) bool) bool {
 		if wanted(id, x) {
 			return true
 		}
-		if isBorder(x, kind) {
+		if x.border[kind] {
 			return false
 		}
 	}
