@@ -1,109 +1,63 @@
 package parse
 
 import (
-	"errors"
-	"slices"
-
 	"hornbeam/api"
 	"hornbeam/builder"
 	"hornbeam/input"
-	"hornbeam/lexer"
 	"hornbeam/node"
+	"hornbeam/page"
 )
 
-// way leads code points to a tree: through the input, the lexer and the builder.
+// way is a page's way to its tree.
 type way struct {
-	arena   *node.Arena
-	input   *input.Stream
-	lexer   *lexer.Lexer
-	builder *builder.Builder
-	token   func(t api.Token) error // leads a token on
-	errors  []string
-	over    bool
+	arena *node.Arena
+	bytes *page.Bytes
+	input *input.Stream
+	tree  *page.Tree
 }
 
-func newWay(arena *node.Arena, tree *builder.Builder) *way {
-	w := &way{arena: arena, input: input.New(), lexer: lexer.New(), builder: tree}
-	w.token = w.tokens()
-	return w
-}
-
-// tokens makes the function that leads tokens to the builder, and tells of each why it was refused. It remembers how
-// many of the builder's errors were told.
-func (w *way) tokens() func(t api.Token) error {
-	told := w.builder.Errors()
-	return func(t api.Token) error {
-		e := w.builder.Token(t)
-		for ; told < w.builder.Errors(); told++ {
-			w.tell("tree")
-		}
-		if e != api.OK {
-			return e
-		}
-		return nil
+// newWay begins a way that a builder of an arena is at the end of.
+func newWay(hint string, arena *node.Arena, b *builder.Builder, last string) *way {
+	return &way{
+		arena: arena,
+		bytes: page.NewBytes(hint),
+		input: input.New(),
+		tree:  page.NewTree(b, last),
 	}
 }
 
-// feed leads code points on, and end the end: the input counts what a page or a fragment may have, and refuses neither.
+// hasRoom tells whether b may come. Of a parser that is over code points wait for ever, and count.
+func (w *way) hasRoom(b []byte) bool {
+	return w.bytes.HasRoom(b, w.input.Len())
+}
+
+// feed leads code points on: the input has room for whatever may come of a page or a fragment.
 func (w *way) feed(l []rune) {
 	w.input.Feed(l)
 	w.run()
 }
 
-func (w *way) end() {
+// end leads the last code points and the end on.
+func (w *way) end(l []rune) {
+	w.input.Feed(l)
 	w.input.End()
 	w.run()
 }
 
 // run puts what waits, code point by code point.
 func (w *way) run() {
-	for !w.over {
+	for !w.tree.Over() {
 		r, ok := w.input.Next()
 		if !ok {
 			return
 		}
-		w.put(r)
+		w.tree.Put(r)
 		if r == api.EOF { // the input tells it as often as it is asked
 			return
 		}
 	}
 }
 
-// put leads a code point, or EOF, to the tree. However that is left, the parser is over where the builder is.
-func (w *way) put(r rune) {
-	full := false
-	defer func() {
-		w.over = full || w.builder.Over()
-	}()
-	w.lexer.Sections(w.builder.Foreign())
-	w.lexer.Put(r)
-	w.tell(w.lexer.Errors()...)
-	for _, t := range w.lexer.Tokens() {
-		if full = isFull(w.token(t)); full {
-			w.tell("full")
-			return
-		}
-	}
-	w.obey()
-}
-
-// isFull tells apart the one refusal that ends a page: behind any other one it goes on without that token.
-func isFull(err error) bool {
-	var e api.Errno
-	return errors.As(err, &e) && e == api.ErrFull
-}
-
-// obey gives the lexer the state that the builder wants, if there is one.
-func (w *way) obey() {
-	if state := w.builder.Want(); state >= 0 {
-		w.lexer.Set(state)
-	}
-}
-
-func (w *way) tell(faults ...string) {
-	w.errors = append(w.errors, faults...)
-}
-
-func (w *way) result(encoding int) api.Result {
-	return api.Result{Encoding: encoding, Mode: w.builder.Quirk(), Errors: slices.Clone(w.errors)}
+func (w *way) result() api.Result {
+	return api.Result{Encoding: w.bytes.Encoding(), Mode: w.tree.Mode(), Errors: w.tree.Errors()}
 }
